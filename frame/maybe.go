@@ -1,6 +1,9 @@
 package frame
 
-import "mailcoach/api"
+import (
+	"mailcoach/api"
+	"mailcoach/ranges"
+)
 
 // Fields of a frame, a bit each.
 const (
@@ -59,7 +62,7 @@ func mayBe(f api.Frame) bool {
 	case api.FrPadding:
 		return f.Limit >= 1 && f.Limit <= maxPadding
 	case api.FrAck:
-		return isSet(f.Ranges)
+		return len(f.Ranges) > 0 && ranges.Check(f.Ranges)
 	case api.FrCrypto, api.FrStream:
 		return f.Offset+uint64(len(f.Data)) <= api.MaxNumber
 	case api.FrMaxStreams:
@@ -88,20 +91,4 @@ func fieldsOf(f api.Frame) int {
 		}
 	}
 	return fields
-}
-
-// isSet: do ranges tell a set that a FrAck may have: in order, with a number between each two?
-func isSet(l []api.Range) bool {
-	if len(l) < 1 || len(l) > api.MaxRanges {
-		return false
-	}
-	for i, r := range l {
-		if r.From > r.To || r.To > api.MaxNumber {
-			return false
-		}
-		if i > 0 && r.From < l[i-1].To+2 { // that To is at most MaxNumber, as was seen a turn ago
-			return false
-		}
-	}
-	return true
 }
